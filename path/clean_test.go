@@ -10,12 +10,27 @@ import (
 // 14.1: what is a clean path, and is one already.
 func TestCleanPaths(t *testing.T) {
 	for _, p := range []string{
-		"", "a", "a/b", "usr/bin/x", "etc", "...", "..a", "a..", ".a", "a.", ".../....", "-", "~", "!", "!/~", "\\", "a\\b", "A:b",
+		"a", "a/b", "usr/bin/x", "etc", "...", "..a", "a..", ".a", "a.", ".../....", "-", "~", "!", "!/~", "\\", "a\\b", "A:b",
 		"a/.b/..c", name(api.MaxName), name(api.MaxName) + "/" + name(api.MaxName), "a/" + name(api.MaxName),
 		long(api.MaxPath - 1), long(api.MaxPath), strings.Repeat("a/", 99) + "a", strings.Repeat("a/", 99) + "bb",
 	} {
 		wantChecked(t, p, true)
 		wantCleaned(t, p, p)
+	}
+}
+
+// 14.1: the root is a clean path, the empty one, but an archive tells it by . or ./ alone: the empty
+// text has no name in it, and is none of what an archive calls a file.
+func TestTheRootAndTheEmptyText(t *testing.T) {
+	wantChecked(t, "", true)
+	wantUncleaned(t, "")
+	for _, root := range []string{".", "./"} {
+		wantChecked(t, root, false)
+		wantCleaned(t, root, "")
+	}
+	for _, nameless := range []string{"/", "//", ".//", "././", "./.", "/.", "/./"} {
+		wantChecked(t, nameless, false)
+		wantUncleaned(t, nameless)
 	}
 }
 
@@ -94,20 +109,26 @@ func TestSeveralFaultsOfAName(t *testing.T) {
 	}
 }
 
-// 14.4: what Clean makes is clean, and Clean leaves it.
+// 14.4: what Clean makes is clean, and Clean leaves it; but not the root, as the empty text is none of
+// what an archive calls a file (14.1).
 func TestCleanMakesCleanPathsAndLeavesThem(t *testing.T) {
-	made := 0
-	for _, s := range append(every(7, "a", ".", "/", name(16)), "", long(200), "./"+long(200)+"/") {
+	made, roots := 0, 0
+	for _, s := range append(every(7, "a", ".", "/", name(16)), long(200), "./"+long(200)+"/") {
 		p, e := Clean(s)
 		if e != api.OK {
 			continue
 		}
-		made++
 		wantChecked(t, p, true)
+		if p == "" {
+			roots++
+			wantUncleaned(t, p)
+			continue
+		}
+		made++
 		wantCleaned(t, p, p)
 	}
-	if made < 1000 {
-		t.Errorf("only %d were made", made)
+	if made < 1000 || roots != 2 {
+		t.Errorf("%d were made, and %d times the root", made, roots)
 	}
 }
 

@@ -33,17 +33,15 @@ func isPath(p string) bool {
 
 // meant is the clean path that is meant by the words, if there is one.
 func meant(s string) (string, bool) {
-	switch {
-	case s == "" || s == "." || s == "./":
+	if s == "." || s == "./" {
 		return "", true
-	case isPath(s):
-		return s, true
 	}
 	for _, ahead := range []string{"", "./"} {
 		for _, behind := range []string{"", "/"} {
 			if len(s) <= len(ahead+behind) || !strings.HasPrefix(s, ahead) || !strings.HasSuffix(s, behind) {
 				continue
 			}
+			// What is left of the text has at least one byte, and so it has a name, if it is a path.
 			if p := s[len(ahead) : len(s)-len(behind)]; isPath(p) {
 				return p, true
 			}
