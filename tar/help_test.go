@@ -132,8 +132,13 @@ func dir(name string) string { return ofKind(53, name, "", "") }
 
 func link(name, to string) string { return ofKind(50, name, to, "") }
 
-// nothing is words that tell nothing.
-func nothing(data string) string { return ofKind(103, "nothing/..", "..", data) }
+// nothing is words that tell nothing, of these records.
+func nothing(records ...string) string {
+	return ofKind(103, "nothing/..", "..", strings.Join(records, ""))
+}
+
+// comment is a record of n bytes or so that tells nothing.
+func comment(n int, seed uint64) string { return record("comment", some(n, seed)) }
 
 // words is more words, of these records.
 func words(records ...string) string {

@@ -99,12 +99,19 @@ func (a *archive) member() api.Errno {
 		fault{!makes && h.Kind != 120 && h.Kind != 103, api.ErrTar},
 		fault{h.Kind == 50 && h.Size != 0 || h.Kind == 53 && h.Size != 0, api.ErrTar},
 		fault{h.Kind == 120 && !a.more(data), api.ErrTar},
+		fault{h.Kind == 103 && !areRecords(data), api.ErrTar},
 		fault{makes && len(a.entries) == 256, api.ErrTar},
 	)
 	if e != api.OK || !makes {
 		return e
 	}
 	return a.entry(h, data)
+}
+
+// areRecords tells whether words are records.
+func areRecords(data string) bool {
+	_, ok := recordsOf(data)
+	return ok
 }
 
 // more takes more words, if they are.
@@ -197,8 +204,11 @@ func (c *chance) member() string {
 	if kind == 49 && c.below(4) > 0 {
 		kind = 48
 	}
-	if kind == 120 && c.below(8) > 0 {
+	switch {
+	case kind == 120 && c.below(8) > 0:
 		return words(c.records()...)
+	case kind == 103 && c.below(8) > 0:
+		return nothing(c.records()...)
 	}
 	data := ""
 	if kind != 53 && kind != 50 || c.below(10) == 0 {
@@ -279,7 +289,7 @@ func TestArchivesByChance(t *testing.T) {
 // 15.1: all rows of up to four of some members.
 func TestShortRows(t *testing.T) {
 	rows := every(4,
-		file("a", "x"), dir("a"), link("a", ".."), link("a", "b"), file("a/b", ""), dir("a/b"), dir("."), words("9 path=b\n"), words("9 size=1\n"), nothing("x"), block)
+		file("a", "x"), dir("a"), link("a", ".."), link("a", "b"), file("a/b", ""), dir("a/b"), dir("."), words("9 path=b\n"), words("9 size=1\n"), nothing("9 path=d\n"), nothing("x"), block)
 	count := map[api.Errno]int{}
 	for _, row := range rows {
 		count[wantAsTold(t, row+block)]++
@@ -362,7 +372,7 @@ func TestWhatTellsNothingByChance(t *testing.T) {
 		a.members()
 		want, e := Read([]byte(all))
 		at := len(all) - a.begins[c.below(len(a.begins))]
-		all = all[:at] + nothing(some(c.below(600), uint64(c))) + all[at:]
+		all = all[:at] + nothing(comment(c.below(600), uint64(c))) + all[at:]
 		if e != api.OK {
 			wantNotRead(t, "with nothing put in", all, e)
 		} else {

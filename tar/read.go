@@ -78,7 +78,9 @@ func (r *reader) member(block []byte) api.Errno {
 	case moreWords:
 		return r.tell(data)
 	case noWords:
-		return api.OK
+		// Words that tell nothing are records all the same.
+		_, e := Records(data)
+		return e
 	}
 	return api.ErrTar
 }

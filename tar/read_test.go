@@ -31,7 +31,7 @@ func TestReadByHand(t *testing.T) {
 		ustar("", "./usr/", "", 0o755, 0, 53) +
 		ustar("usr", "bin/x", "", 0o4755, 3, 48) + whole("abc") +
 		ustar("", "usr/y", "./bin/../bin/x", 0o644, 0, 50) +
-		ustar("", "pax_global_header", "", 0, 20, 103) + whole(some(20, 1)) +
+		ustar("", "pax_global_header", "", 0, 19, 103) + whole("19 path=global/../\n") +
 		ustar("", "pax", "", 0o644, 24, 120) + whole("15 path=some/z\n9 size=2\n") +
 		ustar("", "cut", "", 0, 0, 48) + whole("hi") +
 		block + "what is behind"
@@ -231,7 +231,7 @@ func TestWords(t *testing.T) {
 		t.Helper()
 		m := file("a", "12345")
 		wantRead(t, what, w+m+file("z", "z")+block, append(want, aFile("z", "z"))...)
-		wantRead(t, what+", nothing between", w+nothing(some(600, 1))+m+file("z", "z")+block, append(want, aFile("z", "z"))...)
+		wantRead(t, what+", nothing between", w+nothing(comment(600, 1))+m+file("z", "z")+block, append(want, aFile("z", "z"))...)
 	}
 	told("no records", words(), aFile("a", "12345"))
 	told("other keys", words("4 =\n", record("Path", "b"), record("mtime", "1"), record(" path", "b"), record("path ", "b"), record("linkpat", "b")), aFile("a", "12345"))
@@ -253,7 +253,7 @@ func TestWords(t *testing.T) {
 	wantRead(t, "a link twice", words(record("linkpath", ".."), record("linkpath", "x"))+link("l", "y")+link("m", "y")+block, aLink("l", "/x"), aLink("m", "/y"))
 	wantRead(t, "two members for a link", words(record("linkpath", "x"))+words("9 path=b\n")+link("l", "y")+block, aLink("b", "/y"))
 	wantRead(t, "words for two of three", words("9 path=b\n")+file("a", "")+file("a", "")+words("9 path=c\n")+file("a", "")+block, aFile("b", ""), aFile("a", ""), aFile("c", ""))
-	wantRead(t, "words of their own size", words("9 size=1\n")+nothing(some(1000, 2))+words("9 path=b\n", "9 size=2\n", record("comment", some(1000, 3)))+file("a", "xyz")+block, aFile("b", "xy"))
+	wantRead(t, "words of their own size", words("9 size=1\n")+nothing(comment(1000, 2))+words("9 path=b\n", "9 size=2\n", comment(1000, 3))+file("a", "xyz")+block, aFile("b", "xy"))
 	wantRead(t, "a path that makes what follows one beside it", words("9 path=b\n")+file("a", "")+file("a/b", "")+block, aFile("b", ""), aFile("a/b", ""))
 }
 
@@ -265,7 +265,9 @@ func TestNoWords(t *testing.T) {
 		wantNotRead(t, short(data)+", others behind", words(data)+words()+behind+block, api.ErrTar)
 		wantNotRead(t, short(data)+", at the end", words(data), api.ErrTar)
 		wantNotRead(t, short(data)+", behind nothing but the empty block", words(data)+block, api.ErrTar)
-		wantRead(t, short(data)+" that tells nothing", nothing(data)+behind+block, aFile("a", ""))
+		wantNotRead(t, short(data)+" that tells nothing", nothing(data)+behind+block, api.ErrTar)
+		wantNotRead(t, short(data)+" that tells nothing, behind words", words()+nothing("4 =\n", data)+behind+block, api.ErrTar)
+		wantNotRead(t, short(data)+" that tells nothing, at the end", behind+nothing(data), api.ErrTar)
 		wantRead(t, short(data)+" behind the records", words()+behind+block, aFile("a", ""))
 	}
 	for _, size := range []string{"", "x", "1x", "-1", "+1", " 1", "1 ", "00", "01", "262145", "999999999", "1000000000", "0000000001", "18446744073709551616", "0x1", "1\n", "1=", "\u0661"} {
@@ -275,9 +277,10 @@ func TestNoWords(t *testing.T) {
 		wantNotRead(t, "size "+size+", a good one ahead", words("9 size=0\n", bad)+behind+block, api.ErrTar)
 		wantNotRead(t, "size "+size+", other words behind", words(bad)+words("9 size=0\n")+behind+block, api.ErrTar)
 		wantNotRead(t, "size "+size+", of nothing", words(bad)+nothing("")+link("a", "b")+block, api.ErrTar)
+		wantRead(t, "size "+size+", told to nothing", nothing(bad, "9 path=b\n")+words()+nothing("9 size=0\n", bad)+behind+block, aFile("a", ""))
 		wantRead(t, "size "+size+", another key", words(record("Size", size), record("size ", size), record("", "size="+size))+behind+block, aFile("a", ""))
 	}
-	for _, w := range []string{words(), words("4 =\n"), words("9 path=b\n"), words("9 path=b\n") + nothing("x"), words() + words(), behind + words("9 size=0\n")} {
+	for _, w := range []string{words(), words("4 =\n"), words("9 path=b\n"), words("9 path=b\n") + nothing("4 =\n"), words() + words(), behind + words("9 size=0\n")} {
 		wantNotRead(t, "words that no member follows", w+block, api.ErrTar)
 		wantNotRead(t, "words that no member follows ahead of the end", w+block+behind+block, api.ErrTar)
 		wantNotRead(t, "words that nothing follows", w, api.ErrShort)
@@ -325,12 +328,12 @@ func TestMostEntries(t *testing.T) {
 			all += dir(".") + dir(name)
 			want = append(want, aDir(name))
 		default:
-			all += nothing("x") + words(record("linkpath", "y")) + link(name, "x")
+			all += nothing("9 path=x\n") + words(record("linkpath", "y")) + link(name, "x")
 			want = append(want, aLink(name, "/d/y"))
 		}
 	}
 	wantRead(t, "MaxItems", all+block, want...)
-	wantRead(t, "MaxItems and nothing", all+nothing("x")+nothing("")+block, want...)
+	wantRead(t, "MaxItems and nothing", all+nothing("9 path=x\n")+nothing()+block, want...)
 	for _, m := range []string{file("z", ""), file("/no/path", ""), dir("z"), dir("./"), dir("."), link("z", ""), file("d/e0", ""), file("d", ""), link(".", "")} {
 		wantNotRead(t, "one member more", all+m+block, api.ErrTar)
 		wantNotRead(t, "one member more and words", all+words()+m+block, api.ErrTar)
@@ -353,6 +356,7 @@ func TestSeveralFaults(t *testing.T) {
 		{file("/a", ""), api.ErrPath},
 		{ofKind(49, "/a", "", ""), api.ErrTar},
 		{words("x"), api.ErrTar},
+		{nothing("x"), api.ErrTar},
 		{dir("there"), api.ErrSame},
 		{file("there/under", "x"), api.ErrPath},
 		{link("l", "../.."), api.ErrPath},
@@ -383,7 +387,7 @@ func TestBehindTheEmptyBlock(t *testing.T) {
 
 // 15.5: cut anywhere ahead of its end, an archive is refused.
 func TestCut(t *testing.T) {
-	all := dir("d") + words("9 path=b\n") + file("a", some(700, 1)) + nothing("x") + words("9 path=l\n", "15 linkpath=d\n\n") + link("x", "d") + file("c", "") + block
+	all := dir("d") + words("9 path=b\n") + file("a", some(700, 1)) + nothing("9 path=x\n") + words("9 path=l\n", "15 linkpath=d\n\n") + link("x", "d") + file("c", "") + block
 	if _, e := Read([]byte(all)); e != api.ErrPath {
 		t.Fatalf("error %d", e)
 	}
@@ -401,11 +405,24 @@ func TestWhatTellsNothing(t *testing.T) {
 	}
 	want := []api.Entry{aDir("d"), aFile("a", "xyz"), aLink("d/l", "/d/e"), aFile("c", some(600, 1))}
 	wantRead(t, "as it is", strings.Join(members, ""), want...)
-	for _, m := range []string{nothing(""), nothing("x"), nothing("9 path=q\n9 size=1\n"), nothing(some(api.MaxBytes, 1)), nothing(block), nothing("x") + nothing("y"), ustar("", "n", "", 0, 0, 103)} {
+	many := strings.Repeat("8 size=\n", api.MaxBytes/8)
+	for _, m := range []string{
+		nothing(), nothing("4 =\n"), nothing("9 path=q\n", "9 size=1\n", record("linkpath", "q")), nothing("10 size=x\n", "9 size=7\n", "11 size=01\n"),
+		nothing("8 path=\n", "11 path=..\n"), nothing(many), nothing(record("", block)), nothing("5 x=\n") + nothing("5 =x\n"), ustar("", "n", "", 0, 0, 103),
+	} {
 		for at := range members {
 			other := slices.Insert(slices.Clone(members), at, m)
 			wantRead(t, fmt.Sprint("put in at ", at), strings.Join(other, ""), want...)
 			wantNotRead(t, fmt.Sprint("put in at ", at, ", cut"), strings.Join(other[:at+1], "")[:512*(at+1)-1], api.ErrShort)
+		}
+	}
+	for _, m := range []string{nothing("x"), nothing(block), nothing(many[1:]), nothing(many[:len(many)-1]), nothing("4 =\n", "08 path=\n")} {
+		for at := range members {
+			other := slices.Insert(slices.Clone(members), at, m)
+			wantNotRead(t, fmt.Sprint("no records put in at ", at), strings.Join(other, ""), api.ErrTar)
+			wantNotRead(t, fmt.Sprint("no records put in at ", at, ", nothing behind"), strings.Join(other[:at+1], ""), api.ErrTar)
+			cut := strings.Join(other[:at+1], "")
+			wantNotRead(t, fmt.Sprint("no records put in at ", at, ", cut"), cut[:len(cut)-1], api.ErrShort)
 		}
 	}
 }
